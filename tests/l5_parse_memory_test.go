@@ -95,23 +95,29 @@ func spoilLists(n impl.Node) {
 	}
 }
 
-// No two lists of one answer share memory, not even the room behind them.
+// listsApart says whether no two lists of a tree share memory, not even the room behind them.
+func listsApart(n impl.Node) bool {
+	type span struct{ from, to uintptr }
+	var spans []span
+	eachNode(n, func(inner impl.Node) {
+		if cap(inner.Kids) > 0 {
+			from := uintptr(unsafe.Pointer(unsafe.SliceData(inner.Kids)))
+			spans = append(spans, span{from, from + uintptr(cap(inner.Kids))*unsafe.Sizeof(impl.Node{})})
+		}
+	})
+	slices.SortFunc(spans, func(a, b span) int { return cmp.Compare(a.from, b.from) })
+	for i := 1; i < len(spans); i++ {
+		if spans[i].from < spans[i-1].to {
+			return false
+		}
+	}
+	return true
+}
+
 func TestListsOfTreesAreApart(t *testing.T) {
 	for _, tokens := range severalTokenLists() {
-		got := impl.ParseTokens(tokens)
-		type span struct{ from, to uintptr }
-		var spans []span
-		eachNode(got.Tree, func(n impl.Node) {
-			if cap(n.Kids) > 0 {
-				from := uintptr(unsafe.Pointer(unsafe.SliceData(n.Kids)))
-				spans = append(spans, span{from, from + uintptr(cap(n.Kids))*unsafe.Sizeof(impl.Node{})})
-			}
-		})
-		slices.SortFunc(spans, func(a, b span) int { return cmp.Compare(a.from, b.from) })
-		for i := 1; i < len(spans); i++ {
-			if spans[i].from < spans[i-1].to {
-				t.Errorf("%s: two lists share memory", shown(tokens))
-			}
+		if !listsApart(impl.ParseTokens(tokens).Tree) {
+			t.Errorf("%s: two lists share memory", shown(tokens))
 		}
 	}
 }
