@@ -17,13 +17,14 @@ func severalTexts() []string {
 	}
 }
 
+func addressOf(text string) uintptr { return uintptr(unsafe.Pointer(unsafe.StringData(text))) }
+
 // within says whether a text lies in the memory of another.
 func within(inner, outer string) bool {
 	if inner == "" || outer == "" {
 		return false
 	}
-	from := uintptr(unsafe.Pointer(unsafe.StringData(outer)))
-	at := uintptr(unsafe.Pointer(unsafe.StringData(inner)))
+	from, at := addressOf(outer), addressOf(inner)
 	return from <= at && at < from+uintptr(len(outer))
 }
 
