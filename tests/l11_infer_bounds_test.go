@@ -179,6 +179,15 @@ func TestNoMoreNeedsComeUpThanMay(t *testing.T) {
 	}
 }
 
+// The type of a method in an instance is the method's, with the instance's type for the class's variable.
+func TestMethodsAreNoLargerThanTheyMayBe(t *testing.T) {
+	for count, want := range map[int]string{196: "f :: Int", 197: "?M.C"} {
+		variables := numberedNames("a", 100, " ")
+		text := "class C a where { m :: " + strings.Repeat("a -> ", count-1) + "a } ; data T " + variables + " = T ; instance C ( T " + variables + " ) where { m = primError \"\" } ; f = 1"
+		checkTypes(t, "", [][2]string{{text, want}})
+	}
+}
+
 // Types that are not looked at any more may be far greater than those that are told.
 func TestTypesThatGrowBehind(t *testing.T) {
 	const count = 60

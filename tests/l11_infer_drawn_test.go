@@ -138,7 +138,11 @@ func (m *progMaker) waysTo(want impl.Type) []waysTo {
 	return found
 }
 
+// newName is at times one that is there already, so that it hides it.
 func (m *progMaker) newName(letter string) string {
+	if letter != "f" && m.names > 0 && m.IntN(6) == 0 {
+		return letter + strconv.Itoa(max(1, m.names-m.IntN(8)))
+	}
 	m.names++
 	return letter + strconv.Itoa(m.names)
 }
@@ -348,11 +352,10 @@ func (m *progMaker) signature(p plan) string {
 		return ""
 	}
 	var context []string
-	for i, letter := range freeIdsSlowly(t) {
+	for i := range freeIdsSlowly(t) {
 		for range m.IntN(3) {
 			context = append(context, []string{"Eq", "Ord", "Show", "Num"}[m.IntN(4)]+" "+letterAt(i))
 		}
-		_ = letter
 	}
 	text := impl.FormatType(t) + " ; "
 	if len(context) > 0 {
@@ -527,5 +530,7 @@ func TestDrawnProgramsAreTypedAsTheSecondReadingHasIt(t *testing.T) {
 			preds += len(x.Scheme.Preds)
 		}
 	}
-	t.Log(codes, preds)
+	if codes["0"] < 30 || codes["2M.f"] < 10 || preds < 20 {
+		t.Errorf("codes %v, %d preds", codes, preds)
+	}
 }

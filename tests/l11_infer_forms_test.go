@@ -228,3 +228,50 @@ func TestClausesGuardsAndBlocks(t *testing.T) {
 		{"f = ( f , f )", "?M.f"},
 	})
 }
+
+// A thing names another one only where nothing within it binds or defines the name. In each row g would be in one group with h, if it named it, and could not be used at two types there.
+func TestNamesThatAreBoundWithin(t *testing.T) {
+	for _, clause := range []string{
+		"g x = ( \\ h -> h ) x",
+		"g x = ( \\ ( h , y ) -> h ) ( x , 1 )",
+		"g h = h",
+		"g y@h = h",
+		"g h@y = h",
+		"g (~h) = h",
+		"g (!h) = h",
+		"g x = case x of { h -> h }",
+		"g x = case x of { h | True -> h ; y | True -> y where { h = y } }",
+		"g x = case x of { y | h -> y where { h = True } }",
+		"g x = let { h = x } in h",
+		"g x = let { y = h ; h = x } in y",
+		"g x = h where { h = x }",
+		"g x | h = x where { h = True }",
+		"g x = y where { y = z where { z = h } ; h = x }",
+		"g x = primSeq [ h | h <- [ x ] ] x",
+		"g x = primSeq [ h | h <- [ x ] , y <- [ h ] , primEq 1 2 ] x",
+		"g x = primSeq [ y | h <- [ x ] , y <- [ h ] ] x",
+		"g x = primSeq [ 1 | h <- [ True ] , h ] x",
+		"g x = let { h y = y } in h x",
+		"g x = let { h :: a -> a ; h y = y } in h x",
+	} {
+		checkTypes(t, "", [][2]string{
+			{"f = let { " + clause + " ; h y = ( g y , g 'a' , g 1 ) } in 1", "f :: Int"},
+			{"f = let { h y = ( g y , g 'a' , g 1 ) ; " + clause + " } in 1", "f :: Int"},
+		})
+	}
+	for _, clause := range []string{
+		"g x = primSeq h x",
+		"g x = primSeq [ h | h <- [ h ] ] x",
+		"g x = primSeq [ 1 | y <- [ h ] , h <- [ x ] ] x",
+		"g x = primSeq [ h | y <- [ x ] , True ] x",
+		"g x = primSeq ( ( \\ h -> h ) h ) x",
+		"g x = case h of { h -> x }",
+		"g x = primSeq ( let { h = 1 } in h ) ( primSeq h x )",
+		"g x = primSeq y x where { y = h }",
+		"g x | primSeq h True = x",
+		"g x = case x of { y | primSeq h True -> y }",
+		"g h = h ; g x = primSeq h x",
+	} {
+		checkTypes(t, "", [][2]string{{"f = let { " + clause + " ; h y = ( g y , g 'a' , g 1 ) } in 1", "?M.f"}})
+	}
+}

@@ -19,6 +19,7 @@ func TestSignaturesAsTypes(t *testing.T) {
 		{"f :: Int ; f x = 1", "?M.f"},
 		{"f :: Int -> Int ; f x y = 1", "?M.f"},
 		{"f , g :: a -> a ; f x = x ; g = f", "f :: a -> a; g :: a -> a"},
+		{"h :: Int ; g , f :: b -> b ; f x = x ; k = g 1 ; g = f ; h = k", "f :: a -> a; k :: Int; g :: a -> a; h :: Int"},
 		{"f :: N a -> Int ; f (Z x) = 1 ; f (S y) = f y", "f :: N a -> Int"},
 		{"f (Z x) = 1 ; f (S y) = f y", "?M.f"},
 		{"f :: N a -> Int ; f (Z x) = 1 ; f (S y) = g y ; g x = f x", "f :: N a -> Int; g :: N a -> Int"},
