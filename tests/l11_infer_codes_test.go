@@ -45,6 +45,20 @@ func TestWhatTablesTellIsCodeOne(t *testing.T) {
 
 const classAhead = "class C a where { m :: a } ; class D a where { n :: a -> a } ; "
 
+// A tree that comes back to itself has no end, but the call has one.
+func TestTreesWithoutAnEndAreCodeOne(t *testing.T) {
+	round := []impl.Node{tree(impl.DModule, "M"), tree(impl.DNames, "all")}
+	round[0].Kids = round
+	inside := parsed(t, "module M where { f x = x }")
+	right := inside.Kids[1].Kids[1:]
+	right[0].Kids = right
+	for _, list := range [][]impl.Node{round, {inside}, {inside, inside}} {
+		if r := impl.InferProgram(list); inferredText(r) != inferredText(impl.InferResult{Code: 1}) {
+			t.Errorf("is %s", toldTypes(r))
+		}
+	}
+}
+
 func TestTheFirstThatDoesNotTypeIsNamed(t *testing.T) {
 	checkTypes(t, classAhead, [][2]string{
 		{"f = 1 ; g = 1 1 ; h = 'a' 1", "?M.g"},
