@@ -44,6 +44,7 @@ type slowTyper struct {
 	holes    []impl.Node
 	groups   [][]string // the arguments of the members of each
 	count    int
+	noted    []impl.Type // of all expressions, patterns and things of the unit at hand
 }
 
 const (
@@ -94,10 +95,16 @@ func (s *slowTyper) same(a, b impl.Type) {
 	}
 }
 
+// bounded refuses what is too large or too deep already; what is left is looked at again behind the unit.
 func (s *slowTyper) bounded(t impl.Type) impl.Type {
+	s.noted = append(s.noted, t)
+	s.refuseLarge(t)
+	return t
+}
+
+func (s *slowTyper) refuseLarge(t impl.Type) {
 	count, levels := typeMeasures(s.seen(t))
 	slowRefuse(count > impl.MaxNodes || levels > impl.MaxDeep)
-	return t
 }
 
 // placed puts types for places or for ids.
@@ -802,8 +809,11 @@ func (s *slowTyper) good(do func()) (good bool) {
 			good = false
 		}
 	}()
-	s.wants, s.count = nil, 0
+	s.wants, s.count, s.noted = nil, 0, nil
 	do()
+	for _, t := range s.noted {
+		s.refuseLarge(t)
+	}
 	return len(s.wants) == 0
 }
 

@@ -82,7 +82,7 @@ func TestManyThings(t *testing.T) {
 	}
 }
 
-// Names of many generators hold one within the other. Each is made a list of the next one: from the first one on none is deep as it is looked at, from the last one on all are.
+// Names of many generators hold one within the other. Each is made a list of the next one: from the first one on none is deep as it is drawn, from the last one on all are, and behind all of them it is one and the same.
 func TestManyGenerators(t *testing.T) {
 	const count = 1500
 	var drawn, grown []string
@@ -92,16 +92,15 @@ func TestManyGenerators(t *testing.T) {
 	for i := range count - 1 {
 		grown = append(grown, fmt.Sprintf("_<-[x%d,[x%d]]", i, i+1))
 	}
-	rising := strings.Join(slices.Concat(drawn, grown), " , ")
-	slices.Reverse(grown)
-	falling := strings.Join(slices.Concat(drawn, grown), " , ")
-	checkToldOf(t, "f", [][2]string{
-		{"f = [ x1499 | " + rising + " ]", "[a]"},
-		{"f = [ x1498 | " + rising + " ]", "[[a]]"},
-		{"f = [ x1499 | " + rising + " , _ <- [ x0 ] ]", "?M.f"},
-		{"f = [ x1499 | " + falling + " ]", "?M.f"},
-		{"f = [ x1499 | " + strings.Join(slices.Concat(drawn, grown[:197]), " , ") + " ]", "[a]"},
-	})
+	chain := func(links []string) string {
+		return "f = [ x1499 | " + strings.Join(slices.Concat(drawn, links), " , ") + " ]"
+	}
+	few, many := slices.Clone(grown[:198]), slices.Clone(grown[:199])
+	checkToldOf(t, "f", [][2]string{{chain(few), "[a]"}, {chain(many), "?M.f"}, {chain(grown), "?M.f"}})
+	for _, links := range [][]string{few, many, grown} {
+		slices.Reverse(links)
+	}
+	checkToldOf(t, "f", [][2]string{{chain(few), "[a]"}, {chain(many), "?M.f"}, {chain(grown), "?M.f"}, {chain(grown[:198]), "[a]"}, {chain(grown[:199]), "?M.f"}})
 }
 
 func TestManyUses(t *testing.T) {
