@@ -18,6 +18,9 @@ func checkRun(t *testing.T, what string, list []impl.Node, want string) {
 	if got := p.byClauses("M.f", (*runner).tellChars); got != want {
 		t.Errorf("%s\ntells %q by its clauses, not %q", what, got, want)
 	}
+	if got := meantTold(impl.Meaning(p.core, 1, "", runSteps)); got != want {
+		t.Errorf("%s\nmeans %q, not %q", what, got, want)
+	}
 }
 
 func checkRuns(t *testing.T, ahead string, rows [][2]string) {
