@@ -243,7 +243,12 @@ func (r *meanRun) prim(c *impl.Core, env []meanBinding) *meanValue {
 		}
 		values = append(values, r.wait(func() *meanValue { return r.work(&c.Kids[i], env) }))
 	}
-	switch c.Name {
+	return r.primOf(c.Name, values)
+}
+
+// primOf has what a prim makes of values.
+func (r *meanRun) primOf(name string, values []*meanValue) *meanValue {
+	switch name {
 	case "primError":
 		var text []byte
 		r.read(values[0], &text)
@@ -261,7 +266,7 @@ func (r *meanRun) prim(c *impl.Core, env []meanBinding) *meanValue {
 		}
 		numbers = append(numbers, v.number)
 	}
-	return primOfNumbers(c.Name, numbers)
+	return primOfNumbers(name, numbers)
 }
 
 func meanBool(holds bool) *meanValue {
