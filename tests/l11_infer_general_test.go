@@ -17,7 +17,7 @@ func signedBy(t *testing.T, module impl.Node, schemes map[string]impl.Scheme) im
 	for _, kid := range module.Kids {
 		if s, has := schemes[kid.Name]; has && kid.Kind == impl.DClause && !done[kid.Name] {
 			done[kid.Name] = true
-			own.Kids = append(own.Kids, parsed(t, "module M where { "+kid.Name+" :: "+impl.FormatScheme(s)+" }").Kids[1])
+			own.Kids = append(own.Kids, parsed(t, "module M where { "+asName(kid.Name)+" :: "+impl.FormatScheme(s)+" }").Kids[1])
 		}
 		own.Kids = append(own.Kids, kid)
 	}
