@@ -62,6 +62,11 @@ func TestLinesOfRequests(t *testing.T) {
 		other := slices.Clone(lines)
 		other[i] = strings.ToUpper(other[i][:1]) + other[i][1:]
 		checkAnswer(t, strings.Join(other, "")+rest, "bad\n")
+		// Without its word; of the passes the word alone is a line, too.
+		other[i] = strings.TrimLeft(lines[i], "abcdefghijklmnopqrstuvwxyz")
+		checkAnswer(t, strings.Join(other, "")+rest, "bad\n")
+		other[0] = "\n"
+		checkAnswer(t, strings.Join(other, "")+rest, "bad\n")
 	}
 	// The last line without its line feed, wherever it ends.
 	whole := serveHead + serveModule
