@@ -224,3 +224,36 @@ func TestToldTypesOfWholeProgramsAreSignatures(t *testing.T) {
 		t.Errorf("there are %d signatures, %d with needs", signed, needs)
 	}
 }
+
+// Each export of each module is told with the type that Check tells, whoever declares what is in the type.
+func TestInterfacesOfWholePrograms(t *testing.T) {
+	t.Parallel()
+	withWholes(t, 9, 3, func(m *wholeMaker, texts []string) {
+		c := impl.Check(texts)
+		list, _ := treesOf(texts)
+		all := ""
+		for _, n := range list {
+			got := impl.Interface(n, c.Types)
+			if want := interfaceSlowly(n, c.Types); got != want {
+				t.Errorf("%s\nis told as\n%s\nnot\n%s", impl.Print(n), got, want)
+			}
+			all += got
+		}
+		// The modules export all, so that each type has its line, in the order in which they come.
+		var lines []string
+		for _, x := range c.Types {
+			_, own, _ := strings.Cut(x.Name, ".")
+			lines = append(lines, strings.ReplaceAll(asName(own), " ", "")+" :: "+impl.FormatScheme(x.Scheme)+"\n")
+		}
+		for line := range strings.Lines(all) {
+			if len(lines) > 0 && line == lines[0] {
+				lines = lines[1:]
+			} else if !strings.HasPrefix(line, "data ") && !strings.HasPrefix(line, "class ") {
+				t.Errorf("there is no type for %q", line)
+			}
+		}
+		if len(lines) > 0 {
+			t.Errorf("%s\nhas no line for %q", strings.Join(texts, "\n"), lines)
+		}
+	})
+}
